@@ -1,0 +1,66 @@
+// Package clone makes copies that share no memory with what they are of. All layers owe them: what is handed in is not kept, and an answer is new memory.
+package clone
+
+import (
+	"bytes"
+	"slices"
+
+	"catenary/api"
+)
+
+// Req: a request's copy.
+func Req(r api.Req) api.Req {
+	r.Op = bytes.Clone(r.Op)
+	r.Sig = bytes.Clone(r.Sig)
+	return r
+}
+
+// Vote: a vote's copy.
+func Vote(v api.Vote) api.Vote {
+	v.Sig = bytes.Clone(v.Sig)
+	return v
+}
+
+// Votes: a copy of votes.
+func Votes(votes []api.Vote) []api.Vote {
+	return list(votes, Vote)
+}
+
+// Prep: a copy of what was prepared.
+func Prep(p api.Prep) api.Prep {
+	p.Req = Req(p.Req)
+	p.Cert = Votes(p.Cert)
+	return p
+}
+
+// Report: a report's copy.
+func Report(r api.Report) api.Report {
+	r.Digest = bytes.Clone(r.Digest)
+	r.Stable = Votes(r.Stable)
+	r.Preps = list(r.Preps, Prep)
+	r.Sig = bytes.Clone(r.Sig)
+	return r
+}
+
+// Msg: a message's copy.
+func Msg(m api.Msg) api.Msg {
+	m.Req = Req(m.Req)
+	m.Other = Req(m.Other)
+	m.Data = bytes.Clone(m.Data)
+	m.Sig = bytes.Clone(m.Sig)
+	m.Cert = Votes(m.Cert)
+	m.Votes = Votes(m.Votes)
+	m.Order = slices.Clone(m.Order)
+	m.Picks = list(m.Picks, Req)
+	m.Reports = list(m.Reports, Report)
+	return m
+}
+
+// list: a copy of a list, of each item by one's copy.
+func list[T any](items []T, one func(T) T) []T {
+	out := slices.Clone(items)
+	for i, item := range out {
+		out[i] = one(item)
+	}
+	return out
+}
