@@ -56,6 +56,18 @@ func Msg(m api.Msg) api.Msg {
 	return m
 }
 
+// Entry: an entry's copy.
+func Entry(e api.Entry) api.Entry {
+	e.Name = bytes.Clone(e.Name)
+	e.Value = bytes.Clone(e.Value)
+	return e
+}
+
+// Entries: a copy of entries.
+func Entries(entries []api.Entry) []api.Entry {
+	return list(entries, Entry)
+}
+
 // list: a copy of a list, of each item by one's copy.
 func list[T any](items []T, one func(T) T) []T {
 	out := slices.Clone(items)

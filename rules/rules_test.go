@@ -42,6 +42,10 @@ func TestClones(t *testing.T) {
 		{"Report", clone.Report, []any{m.Reports[0]}},
 		{"Msg", clone.Msg, []any{m}},
 		{"Msg of none", clone.Msg, []any{api.Msg{}}},
+		{"Entry", clone.Entry, []any{someEntries()[0]}},
+		{"Entry of none", clone.Entry, []any{api.Entry{}}},
+		{"Entries", clone.Entries, []any{someEntries()}},
+		{"Entries of none", clone.Entries, []any{[]api.Entry{}}},
 	} {
 		keepsRules(t, c)
 		if got := c.do(c.values()); !same(got[0], reflect.ValueOf(c.args[0])) {
