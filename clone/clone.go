@@ -68,6 +68,17 @@ func Entries(entries []api.Entry) []api.Entry {
 	return list(entries, Entry)
 }
 
+// Lease: a lease's copy.
+func Lease(l api.Lease) api.Lease {
+	l.Name = bytes.Clone(l.Name)
+	return l
+}
+
+// Leases: a copy of leases.
+func Leases(leases []api.Lease) []api.Lease {
+	return list(leases, Lease)
+}
+
 // list: a copy of a list, of each item by one's copy.
 func list[T any](items []T, one func(T) T) []T {
 	out := slices.Clone(items)

@@ -46,6 +46,10 @@ func TestClones(t *testing.T) {
 		{"Entry of none", clone.Entry, []any{api.Entry{}}},
 		{"Entries", clone.Entries, []any{someEntries()}},
 		{"Entries of none", clone.Entries, []any{[]api.Entry{}}},
+		{"Lease", clone.Lease, []any{someLeases()[0]}},
+		{"Lease of none", clone.Lease, []any{api.Lease{}}},
+		{"Leases", clone.Leases, []any{someLeases()}},
+		{"Leases of none", clone.Leases, []any{[]api.Lease{}}},
 	} {
 		keepsRules(t, c)
 		if got := c.do(c.values()); !same(got[0], reflect.ValueOf(c.args[0])) {
