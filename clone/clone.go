@@ -79,6 +79,26 @@ func Leases(leases []api.Lease) []api.Lease {
 	return list(leases, Lease)
 }
 
+// Result: a copy of what came of an operation.
+func Result(r api.Result) api.Result {
+	r.Value = bytes.Clone(r.Value)
+	return r
+}
+
+// Session: a session's copy.
+func Session(s api.Session) api.Session {
+	s.Result = Result(s.Result)
+	return s
+}
+
+// App: a copy of the service's state.
+func App(a api.App) api.App {
+	a.Entries = Entries(a.Entries)
+	a.Leases = Leases(a.Leases)
+	a.Sessions = list(a.Sessions, Session)
+	return a
+}
+
 // list: a copy of a list, of each item by one's copy.
 func list[T any](items []T, one func(T) T) []T {
 	out := slices.Clone(items)

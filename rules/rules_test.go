@@ -50,6 +50,12 @@ func TestClones(t *testing.T) {
 		{"Lease of none", clone.Lease, []any{api.Lease{}}},
 		{"Leases", clone.Leases, []any{someLeases()}},
 		{"Leases of none", clone.Leases, []any{[]api.Lease{}}},
+		{"Result", clone.Result, []any{someSessions()[0].Result}},
+		{"Result of none", clone.Result, []any{api.Result{}}},
+		{"Session", clone.Session, []any{someSessions()[0]}},
+		{"Session of none", clone.Session, []any{api.Session{}}},
+		{"App", clone.App, []any{someState()}},
+		{"App of none", clone.App, []any{api.App{}}},
 	} {
 		keepsRules(t, c)
 		if got := c.do(c.values()); !same(got[0], reflect.ValueOf(c.args[0])) {
