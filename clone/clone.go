@@ -99,6 +99,12 @@ func App(a api.App) api.App {
 	return a
 }
 
+// Packet: a packet's copy.
+func Packet(p api.Packet) api.Packet {
+	p.Bytes = bytes.Clone(p.Bytes)
+	return p
+}
+
 // list: a copy of a list, of each item by one's copy.
 func list[T any](items []T, one func(T) T) []T {
 	out := slices.Clone(items)

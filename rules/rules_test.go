@@ -56,6 +56,8 @@ func TestClones(t *testing.T) {
 		{"Session of none", clone.Session, []any{api.Session{}}},
 		{"App", clone.App, []any{someState()}},
 		{"App of none", clone.App, []any{api.App{}}},
+		{"Packet", clone.Packet, []any{somePackets()[0]}},
+		{"Packet of none", clone.Packet, []any{api.Packet{}}},
 	} {
 		keepsRules(t, c)
 		if got := c.do(c.values()); !same(got[0], reflect.ValueOf(c.args[0])) {
