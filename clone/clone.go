@@ -105,6 +105,16 @@ func Packet(p api.Packet) api.Packet {
 	return p
 }
 
+// Slot: a copy of what is known of a slot.
+func Slot(s api.Slot) api.Slot {
+	s.Vote = Req(s.Vote)
+	s.Prep = Req(s.Prep)
+	s.Cert = Votes(s.Cert)
+	s.Done = Req(s.Done)
+	s.Votes = Votes(s.Votes)
+	return s
+}
+
 // list: a copy of a list, of each item by one's copy.
 func list[T any](items []T, one func(T) T) []T {
 	out := slices.Clone(items)

@@ -58,6 +58,8 @@ func TestClones(t *testing.T) {
 		{"App of none", clone.App, []any{api.App{}}},
 		{"Packet", clone.Packet, []any{somePackets()[0]}},
 		{"Packet of none", clone.Packet, []any{api.Packet{}}},
+		{"Slot", clone.Slot, []any{aSlot()}},
+		{"Slot of none", clone.Slot, []any{api.Slot{}}},
 	} {
 		keepsRules(t, c)
 		if got := c.do(c.values()); !same(got[0], reflect.ValueOf(c.args[0])) {
