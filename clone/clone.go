@@ -15,6 +15,11 @@ func Req(r api.Req) api.Req {
 	return r
 }
 
+// Reqs: a copy of requests.
+func Reqs(requests []api.Req) []api.Req {
+	return list(requests, Req)
+}
+
 // Vote: a vote's copy.
 func Vote(v api.Vote) api.Vote {
 	v.Sig = bytes.Clone(v.Sig)
@@ -51,7 +56,7 @@ func Msg(m api.Msg) api.Msg {
 	m.Cert = Votes(m.Cert)
 	m.Votes = Votes(m.Votes)
 	m.Order = slices.Clone(m.Order)
-	m.Picks = list(m.Picks, Req)
+	m.Picks = Reqs(m.Picks)
 	m.Reports = list(m.Reports, Report)
 	return m
 }

@@ -35,6 +35,8 @@ func TestClones(t *testing.T) {
 	for _, c := range []call{
 		{"Req", clone.Req, []any{m.Req}},
 		{"Req of none", clone.Req, []any{api.Req{}}},
+		{"Reqs", clone.Reqs, []any{m.Picks}},
+		{"Reqs of none", clone.Reqs, []any{[]api.Req{}}},
 		{"Vote", clone.Vote, []any{m.Cert[0]}},
 		{"Votes", clone.Votes, []any{m.Cert}},
 		{"Votes of none", clone.Votes, []any{[]api.Vote{}}},
